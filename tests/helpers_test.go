@@ -19,7 +19,7 @@ func same(t *testing.T, what string, got any, want any) {
 // plain replaces slices that may be nil by text, so that nil and empty ones are equal.
 func plain(x any) any {
 	switch y := x.(type) {
-	case []int64, [][]int64, []string, impl.Graph, impl.Cover:
+	case []int64, [][]int64, []string, impl.Graph, impl.Cover, impl.Desk:
 		return fmt.Sprint(y)
 	}
 	return x
